@@ -7,10 +7,8 @@ import (
 	"strings"
 
 	"millpond/api"
+	"millpond/guard"
 )
-
-// deepest is how many others a condition may lie in and still be looked at. The document allows 20, but the longest text of a condition comes to 23. There is a bound at all so that a call ends on conditions that go round, or that share their parts over and over.
-const deepest = 24
 
 // Right says whether a value may be: nothing, a number, or a text of at most MaxLetters bytes from 32 to 126, but '; all else of it zero.
 func Right(v api.Value) (_ bool) {
@@ -86,18 +84,10 @@ func number(b bool) int {
 
 // Holds is what a condition comes to, of a row: 1, 0, or -1 (it is not known); nil holds always.
 func Holds(c *api.Cond, get func(column string) api.Value) (_ int) {
-	if !within(c, deepest) {
+	if !guard.Ends(c) {
 		return 0
 	}
 	return holds(c, get)
-}
-
-// within says whether no part of a condition lies in more than so many others.
-func within(c *api.Cond, others int) bool {
-	if c == nil {
-		return true
-	}
-	return others >= 0 && within(c.Left, others-1) && within(c.Right, others-1)
 }
 
 func holds(c *api.Cond, get func(column string) api.Value) int {
@@ -106,9 +96,9 @@ func holds(c *api.Cond, get func(column string) api.Value) int {
 	}
 	switch c.Code {
 	case api.IsNull:
-		return number(told(get, c.Column).Kind == api.Null)
+		return number(guard.Told(get, c.Column).Kind == api.Null)
 	case api.NotNull:
-		return number(told(get, c.Column).Kind != api.Null)
+		return number(guard.Told(get, c.Column).Kind != api.Null)
 	case api.Not:
 		return not(holds(c.Left, get))
 	case api.And:
@@ -116,17 +106,7 @@ func holds(c *api.Cond, get func(column string) api.Value) int {
 	case api.Or:
 		return or(holds(c.Left, get), holds(c.Right, get))
 	}
-	return Is(c.Code, told(get, c.Column), c.Value)
-}
-
-// told is what get tells of a column. No call may panic, but get is the caller's: if it is nil, or panics, it has told nothing.
-func told(get func(column string) api.Value, column string) (v api.Value) {
-	defer func() {
-		if recover() != nil {
-			v = api.Value{}
-		}
-	}()
-	return get(column)
+	return Is(c.Code, guard.Told(get, c.Column), c.Value)
 }
 
 func not(n int) int {
