@@ -7,9 +7,9 @@ import (
 
 // Decode reads a column of a kind, as Encode writes it. ErrForm.
 func Decode(kind int, s string) (_ []api.Value, _ error) {
-	r := reader{kind: kind, left: s}
+	r := reader{number.From(s), kind}
 	l := r.column()
-	if r.wrong {
+	if r.Wrong() {
 		return nil, api.ErrForm
 	}
 	// What was read may yet lie in a longer way, or hold what no column may have: only writing it again tells.
@@ -19,18 +19,17 @@ func Decode(kind int, s string) (_ []api.Value, _ error) {
 	return l, nil
 }
 
-// reader is at a place in a column's bytes. Once something is wrong, it stays so, and what is read has no meaning.
+// reader is at a place in the bytes of a column of a kind.
 type reader struct {
-	kind  int
-	left  string
-	wrong bool
+	number.Reader
+	kind int
 }
 
 func (r *reader) column() []api.Value {
-	n := r.upTo(api.MaxRows)
-	nulls := r.bytes(bytesOfMarks(n))
-	way := r.bytes(1)
-	if r.wrong {
+	n := r.UpTo(api.MaxRows)
+	nulls := r.Bytes(bytesOfMarks(n))
+	way := r.Bytes(1)
+	if r.Wrong() {
 		return nil
 	}
 	l := make([]api.Value, n)
@@ -41,7 +40,7 @@ func (r *reader) column() []api.Value {
 		}
 	}
 	found := r.known(int(way[0]), len(places))
-	if r.wrong {
+	if r.Wrong() {
 		return nil
 	}
 	for i, place := range places {
@@ -62,7 +61,7 @@ func (r *reader) known(way, n int) []api.Value {
 	case bySteps:
 		return r.steps(n)
 	}
-	r.wrong = true
+	r.Refuse()
 	return nil
 }
 
@@ -76,8 +75,8 @@ func (r *reader) values(n int) []api.Value {
 
 func (r *reader) runs(n int) []api.Value {
 	var l []api.Value
-	for len(l) < n && !r.wrong {
-		run := r.upTo(n - len(l))
+	for len(l) < n && !r.Wrong() {
+		run := r.UpTo(n - len(l))
 		v := r.value()
 		for range run {
 			l = append(l, v)
@@ -87,11 +86,11 @@ func (r *reader) runs(n int) []api.Value {
 }
 
 func (r *reader) which(n int) []api.Value {
-	different := r.values(r.upTo(n))
+	different := r.values(r.UpTo(n))
 	var l []api.Value
 	for range n {
-		which := r.upTo(len(different) - 1)
-		if r.wrong {
+		which := r.UpTo(len(different) - 1)
+		if r.Wrong() {
 			return nil
 		}
 		l = append(l, different[which])
@@ -103,7 +102,7 @@ func (r *reader) steps(n int) []api.Value {
 	var l []api.Value
 	var ahead int64
 	for range n {
-		ahead += number.Signed(r.number())
+		ahead += number.Signed(r.Number())
 		l = append(l, api.Value{Kind: api.Int, Num: ahead})
 	}
 	return l
@@ -111,34 +110,7 @@ func (r *reader) steps(n int) []api.Value {
 
 func (r *reader) value() api.Value {
 	if r.kind == api.Int {
-		return api.Value{Kind: api.Int, Num: number.Signed(r.number())}
+		return api.Value{Kind: api.Int, Num: number.Signed(r.Number())}
 	}
-	return api.Value{Kind: api.Text, Text: r.bytes(r.upTo(api.MaxLetters))}
-}
-
-func (r *reader) number() uint64 {
-	n, behind, ok := number.Read(r.left)
-	r.left = behind
-	r.wrong = r.wrong || !ok
-	return n
-}
-
-// upTo is a number of at most so much: a greater one is wrong, and comes to 0, so that nobody goes so far.
-func (r *reader) upTo(most int) int {
-	n := r.number()
-	if r.wrong || most < 0 || n > uint64(most) {
-		r.wrong = true
-		return 0
-	}
-	return int(n)
-}
-
-func (r *reader) bytes(n int) string {
-	if n > len(r.left) {
-		r.wrong = true
-		return ""
-	}
-	s := r.left[:n]
-	r.left = r.left[n:]
-	return s
+	return api.Value{Kind: api.Text, Text: r.Bytes(r.UpTo(api.MaxLetters))}
 }

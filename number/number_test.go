@@ -64,3 +64,51 @@ func TestReadWrong(t *testing.T) {
 		}
 	}
 }
+
+// A Reader reads one thing behind the other, up to the end.
+func TestReader(t *testing.T) {
+	r := number.From("\xac\x02\x07\x02abc\x00")
+	if n := r.Number(); n != 300 {
+		t.Errorf("the first number is %d", n)
+	}
+	if n := r.UpTo(7); n != 7 {
+		t.Errorf("the number of at most 7 is %d", n)
+	}
+	if s := r.Bytes(r.UpTo(math.MaxInt)); s != "ab" {
+		t.Errorf("two bytes are %q", s)
+	}
+	if s := r.Bytes(0); s != "" {
+		t.Errorf("no bytes are %q", s)
+	}
+	if s := r.Bytes(2); s != "c\x00" {
+		t.Errorf("the last bytes are %q", s)
+	}
+	if r.Wrong() {
+		t.Error("something is wrong with what is right")
+	}
+}
+
+// A Reader notes what is wrong, and keeps to it whatever comes behind.
+func TestReaderWrong(t *testing.T) {
+	for name, read := range map[string]func(r *number.Reader){
+		"too great a number":       func(r *number.Reader) { r.UpTo(4) },
+		"a number where none is":   func(r *number.Reader) { r.UpTo(-1) },
+		"too many bytes":           func(r *number.Reader) { r.Bytes(5) },
+		"fewer bytes than none":    func(r *number.Reader) { r.Bytes(-1) },
+		"a number behind the end":  func(r *number.Reader) { r.Bytes(4); r.Number() },
+		"what the caller knows of": func(r *number.Reader) { r.Refuse() },
+	} {
+		r := number.From("\x05\x01\x02\x03")
+		read(&r)
+		if !r.Wrong() {
+			t.Errorf("%s: nothing is wrong", name)
+		}
+		if n := r.UpTo(99); n != 0 || !r.Wrong() {
+			t.Errorf("%s: a number behind it is %d, and wrong is %v", name, n, r.Wrong())
+		}
+	}
+	r := number.From(strings.Repeat("\xff", 9) + "\x01")
+	if n := r.UpTo(math.MaxInt); n != 0 || !r.Wrong() {
+		t.Errorf("a number that is no int is %d", n)
+	}
+}
