@@ -4,8 +4,10 @@ import (
 	"maps"
 	"slices"
 
+	"millpond/api"
 	"millpond/bucket"
 	"millpond/commit"
+	"millpond/log"
 	"millpond/scan"
 )
 
@@ -15,10 +17,7 @@ func Vacuum(b *bucket.Bucket, from int) (_ int, _ error) {
 	if err != nil {
 		return 0, err
 	}
-	last, err := lastVersions(b, now.Version)
-	if err != nil {
-		return 0, err
-	}
+	last := lastVersions(b, now.Version)
 	from = min(max(from, 0), now.Version)
 	old := slices.DeleteFunc(slices.Sorted(maps.Keys(last)), func(path string) bool { return last[path] >= from })
 	went := 0
@@ -30,17 +29,17 @@ func Vacuum(b *bucket.Bucket, from int) (_ int, _ error) {
 	return went, nil
 }
 
-// lastVersions tells by path which is the last version, up to now, that had a file. commit.Load's errors.
-func lastVersions(b *bucket.Bucket, now int) (map[string]int, error) {
+// lastVersions tells by path which is the last version, up to now, that had a file. The table at now was loaded, so that each commit up to it is there, and may be done behind the others: one walk is enough, as loading each version from the beginning on would be many.
+func lastVersions(b *bucket.Bucket, now int) map[string]int {
 	last := map[string]int{}
-	for version := range now + 1 {
-		s, err := commit.Load(b, version)
-		if err != nil {
-			return nil, err
-		}
+	var s api.Snapshot
+	for version := 1; version <= now; version++ {
+		text, _ := b.Get(log.Key(version))
+		c, _ := log.Parse(text)
+		s, _ = log.Apply(s, c)
 		for _, f := range s.Files {
 			last[f.Path] = version
 		}
 	}
-	return last, nil
+	return last
 }
